@@ -10,6 +10,7 @@ import (
 	"testing"
 
 	"logjam/bits"
+	"logjam/internal/draws"
 )
 
 const full = bits.Set(math.MaxUint64)
@@ -26,11 +27,11 @@ func sets() []bits.Set {
 	for n := range 64 {
 		l = append(l, 1<<n, full&^(1<<n), 1<<n-1)
 	}
-	d := draws(1)
+	d := draws.Row(1)
 	for k := range 200 {
-		s := bits.Set(d.next())
+		s := bits.Set(d.Next())
 		for range k % 4 {
-			s &= bits.Set(d.next())
+			s &= bits.Set(d.Next())
 		}
 		l = append(l, s)
 	}
@@ -44,17 +45,6 @@ func numbers() []int {
 		l = append(l, n)
 	}
 	return l
-}
-
-// draws is a row of numbers that always comes in the same order.
-type draws uint64
-
-func (d *draws) next() uint64 {
-	*d += 0x9e3779b97f4a7c15
-	z := uint64(*d)
-	z = (z ^ z>>30) * 0xbf58476d1ce4e5b9
-	z = (z ^ z>>27) * 0x94d049bb133111eb
-	return z ^ z>>31
 }
 
 // members are the numbers of a set by its weights: what a set is, told without the calls that are tested.

@@ -7,6 +7,7 @@ import (
 	"testing"
 
 	"logjam/api"
+	"logjam/internal/draws"
 	"logjam/octet"
 )
 
@@ -361,32 +362,21 @@ func read(i *octet.In, kind int) item {
 	return item{kind: kind, text: i.Text()}
 }
 
-// draws is a row of numbers that always comes in the same order.
-type draws uint64
-
-func (d *draws) next() uint64 {
-	*d += 0x9e3779b97f4a7c15
-	z := uint64(*d)
-	z = (z ^ z>>30) * 0xbf58476d1ce4e5b9
-	z = (z ^ z>>27) * 0x94d049bb133111eb
-	return z ^ z>>31
-}
-
-// item draws one, of numbers of all lengths.
-func (d *draws) item() item {
-	x := item{kind: int(d.next() % 4)}
+// drawn is one that is drawn, of numbers of all lengths.
+func drawn(d *draws.Row) item {
+	x := item{kind: int(d.Next() % 4)}
 	switch x.kind {
 	case 0:
-		x.num = d.next() % 256
+		x.num = d.Next() % 256
 	case 3:
-		b := make([]byte, d.next()%200)
+		b := make([]byte, d.Next()%200)
 		for k := range b {
-			b[k] = byte(d.next())
+			b[k] = byte(d.Next())
 		}
 		x.text = string(b)
 	default:
-		x.num = d.next() >> (d.next() % 64)
-		if d.next()%2 == 0 {
+		x.num = d.Next() >> (d.Next() % 64)
+		if d.Next()%2 == 0 {
 			x.num = -x.num
 		}
 	}
@@ -394,12 +384,12 @@ func (d *draws) item() item {
 }
 
 func TestWhatWasPutIsRead(t *testing.T) {
-	d := draws(1)
+	d := draws.Row(1)
 	for range 300 {
 		o := &octet.Out{}
 		var l []item
-		for range d.next() % 20 {
-			x := d.item()
+		for range d.Next() % 20 {
+			x := drawn(&d)
 			x.put(o)
 			l = append(l, x)
 		}
@@ -443,12 +433,12 @@ func TestWhatIsReadIsPutAgain(t *testing.T) {
 }
 
 func TestDrawnBytesAreReadAndPutAgain(t *testing.T) {
-	d := draws(2)
+	d := draws.Row(2)
 	for range 20000 {
-		b := make([]byte, d.next()%24)
+		b := make([]byte, d.Next()%24)
 		for k := range b {
-			b[k] = byte(d.next())
-			if d.next()%2 == 0 {
+			b[k] = byte(d.Next())
+			if d.Next()%2 == 0 {
 				b[k] |= 0x80
 			}
 		}
