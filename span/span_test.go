@@ -59,3 +59,18 @@ func TestWithin(t *testing.T) {
 		}
 	}
 }
+
+func TestCount(t *testing.T) {
+	for _, x := range []struct {
+		many, most int
+		want       api.Errno
+	}{
+		{0, 4, api.ErrForm}, {1, 4, api.OK}, {3, 4, api.OK}, {4, 4, api.OK}, {5, 4, api.ErrLong},
+		{0, 1, api.ErrForm}, {1, 1, api.OK}, {2, 1, api.ErrLong}, {200, 200, api.OK}, {201, 200, api.ErrLong},
+		{1 << 32, 4, api.ErrLong}, {1<<32 + 1, 4, api.ErrLong}, {math.MaxInt, 200, api.ErrLong},
+	} {
+		if got := span.Count(x.many, x.most); got != x.want {
+			t.Errorf("%d of at most %d: %v, not %v", x.many, x.most, got, x.want)
+		}
+	}
+}
