@@ -2,7 +2,6 @@ package depth_test
 
 import (
 	"math"
-	"reflect"
 	"slices"
 	"strconv"
 	"strings"
@@ -11,6 +10,7 @@ import (
 	"logjam/api"
 	"logjam/depth"
 	"logjam/internal/draws"
+	"logjam/internal/progs"
 	"logjam/op"
 	"logjam/prog"
 )
@@ -18,37 +18,12 @@ import (
 // no is the depth of what is not reached.
 const no = -1
 
-// code is instructions in writing: a name and its operands each, with a comma between each two.
-func code(text string) []api.Ins {
-	var l []api.Ins
-	for part := range strings.SplitSeq(text, ",") {
-		words := strings.Fields(part)
-		if len(words) == 0 {
-			continue
-		}
-		n, ok := op.Of(words[0])
-		if !ok {
-			panic("no operation: " + part)
-		}
-		x := api.Ins{Op: n}
-		for k, word := range words[1:] {
-			m, err := strconv.Atoi(word)
-			if err != nil {
-				panic(err)
-			}
-			*[]*int{&x.A, &x.B}[k] = m
-		}
-		l = append(l, x)
-	}
-	return l
-}
-
 // many is a text that stands there so many times.
 func many(n int, text string) string { return strings.Repeat(text+", ", n) }
 
 // alone is a program of one function.
 func alone(text string) api.Program {
-	return api.Program{Funcs: []api.Func{{Code: code(text)}}}
+	return api.Program{Funcs: []api.Func{{Code: progs.Code(text)}}}
 }
 
 // answer is what Of tells.
@@ -195,50 +170,12 @@ func mayGo(p api.Program, fn int) ([]int, bool) {
 	return depths, ok
 }
 
-// room is a list with spare room in which something stands.
-func room[T any](l []T, spare T) []T {
-	r := make([]T, len(l), len(l)+2)
-	copy(r, l)
-	r[:len(l)+1][len(l)], r[:len(l)+2][len(l)+1] = spare, spare
-	return r
-}
-
-// roomy is a program of lists with spare room.
-func roomy(p api.Program) api.Program {
-	q := api.Program{Decls: room(p.Decls, api.Decl{Kind: 80, A: 81, B: 82}), Waits: room(p.Waits, [][]api.Need{{{Obj: 70}}}), Funcs: room(p.Funcs, api.Func{Args: 60})}
-	for k := range q.Waits {
-		q.Waits[k] = room(q.Waits[k], []api.Need{{Obj: 71}})
-		for n := range q.Waits[k] {
-			q.Waits[k][n] = room(q.Waits[k][n], api.Need{Kind: 77, Obj: 78, N: 79})
-		}
-	}
-	for k := range q.Funcs {
-		q.Funcs[k].Code = room(q.Funcs[k].Code, api.Ins{Op: 90, A: 91, B: 92})
-	}
-	return q
-}
-
-// whole is a program with all that stands in its spare room.
-func whole(p api.Program) api.Program {
-	q := api.Program{Decls: p.Decls[:cap(p.Decls)], Waits: slices.Clone(p.Waits[:cap(p.Waits)]), Funcs: slices.Clone(p.Funcs[:cap(p.Funcs)])}
-	for k, w := range q.Waits {
-		q.Waits[k] = slices.Clone(w[:cap(w)])
-		for n, way := range q.Waits[k] {
-			q.Waits[k][n] = way[:cap(way)]
-		}
-	}
-	for k, f := range q.Funcs {
-		q.Funcs[k].Code = f.Code[:cap(f.Code)]
-	}
-	return q
-}
-
 // asked is what Of answers of a program with spare room; it fails, if that is changed.
 func asked(t *testing.T, p api.Program, fn int) answer {
 	t.Helper()
-	q := roomy(p)
+	q := progs.Roomy(p)
 	l, at, e := depth.Of(q, fn)
-	if !reflect.DeepEqual(whole(q), whole(roomy(p))) {
+	if !progs.Kept(q, p) {
 		t.Errorf("%v became %v", p, q)
 	}
 	return answer{l, at, e}
@@ -260,7 +197,7 @@ func tells(t *testing.T, text string, want answer) {
 	t.Helper()
 	p := alone(text)
 	of(t, p, 0, want)
-	p.Funcs = []api.Func{{Args: 3, Locals: 4, Code: code("add")}, {Code: code(many(17, "push") + "ret")}, p.Funcs[0], {Args: 1, Locals: 1, Code: code("jump 7")}}
+	p.Funcs = []api.Func{{Args: 3, Locals: 4, Code: progs.Code("add")}, {Code: progs.Code(many(17, "push") + "ret")}, p.Funcs[0], {Args: 1, Locals: 1, Code: progs.Code("jump 7")}}
 	of(t, p, 2, want)
 	// How many arguments and locals a function has itself says nothing of its stack, which is empty at first.
 	p.Funcs[2].Args, p.Funcs[2].Locals = 5, 8
@@ -341,11 +278,11 @@ func eachOp(do func(x api.Ins, takes, lays int)) {
 }
 
 // pushes are instructions that lay so many values.
-func pushes(n int) []api.Ins { return code(many(n, "push")) }
+func pushes(n int) []api.Ins { return progs.Code(many(n, "push")) }
 
 // with is a program whose function 0 has these instructions, and whose function 1 has 3 arguments.
 func with(l []api.Ins) api.Program {
-	return api.Program{Funcs: []api.Func{{Code: l}, {Args: 3, Locals: 3, Code: code("push, ret")}}}
+	return api.Program{Funcs: []api.Func{{Code: l}, {Args: 3, Locals: 3, Code: progs.Code("push, ret")}}}
 }
 
 func TestEachOperationWithEachDepth(t *testing.T) {
@@ -403,7 +340,7 @@ func TestEachOperationAtTheEnd(t *testing.T) {
 
 func TestCalls(t *testing.T) {
 	for args := 0; args <= 8; args++ {
-		callee := api.Func{Args: args, Locals: 8, Code: code("push, ret")}
+		callee := api.Func{Args: args, Locals: 8, Code: progs.Code("push, ret")}
 		for have := 0; have <= 16; have++ {
 			body := func(fn int) []api.Ins {
 				return append(pushes(have), api.Ins{Op: api.OpCall, A: fn}, api.Ins{Op: api.OpJump, A: have + 1})
@@ -419,7 +356,7 @@ func TestCalls(t *testing.T) {
 			of(t, api.Program{Funcs: []api.Func{callee}}, 0, want)
 			callee.Code = body(2)
 			of(t, api.Program{Funcs: []api.Func{{Args: 7, Locals: 7}, {}, callee, {Args: 6, Locals: 6}}}, 2, want)
-			callee.Code = code("push, ret")
+			callee.Code = progs.Code("push, ret")
 			of(t, api.Program{Funcs: []api.Func{callee, {Code: body(0)}}}, 1, want)
 			of(t, api.Program{Funcs: []api.Func{{Args: (args + 1) % 9, Locals: 8, Code: body(1)}, callee}}, 0, want)
 			of(t, api.Program{Funcs: append(slices.Repeat([]api.Func{{Args: (args + 1) % 9, Locals: 8, Code: body(15)}}, 15), callee)}, 3, want)
@@ -442,7 +379,7 @@ func TestACallOfAFunctionThatThereIsNotTakesNothing(t *testing.T) {
 
 func TestWhatIsCalledIsNotAskedWhetherItIsRight(t *testing.T) {
 	for _, text := range []string{"add", "push", "jump 9", many(17, "push") + "ret"} {
-		p := api.Program{Funcs: []api.Func{{Code: code("call 1, ret")}, {Code: code(text)}}}
+		p := api.Program{Funcs: []api.Func{{Code: progs.Code("call 1, ret")}, {Code: progs.Code(text)}}}
 		of(t, p, 0, good(0, 1))
 		if got := reading(p, 1); got.e == api.OK {
 			t.Errorf("%s is right", text)
@@ -452,7 +389,7 @@ func TestWhatIsCalledIsNotAskedWhetherItIsRight(t *testing.T) {
 
 func TestASpawnTakesTwoWhateverItNames(t *testing.T) {
 	for fn := range 4 {
-		p := api.Program{Funcs: []api.Func{{Code: []api.Ins{{Op: api.OpPush}, {Op: api.OpPush}, {Op: api.OpSpawn, A: fn}, {Op: api.OpRet}}}, {Args: 1, Locals: 1, Code: code("push, ret")}, {Args: 8, Locals: 8, Code: code("push, ret")}}}
+		p := api.Program{Funcs: []api.Func{{Code: []api.Ins{{Op: api.OpPush}, {Op: api.OpPush}, {Op: api.OpSpawn, A: fn}, {Op: api.OpRet}}}, {Args: 1, Locals: 1, Code: progs.Code("push, ret")}, {Args: 8, Locals: 8, Code: progs.Code("push, ret")}}}
 		of(t, p, 0, good(0, 1, 2, 1))
 		p.Funcs[0].Code = p.Funcs[0].Code[1:]
 		of(t, p, 0, bad(1, api.ErrForm))
@@ -472,7 +409,7 @@ func TestOfAJoinBCounts(t *testing.T) {
 // P11.2
 
 func TestFunctionsThatThereAreAndAreNot(t *testing.T) {
-	p := api.Program{Funcs: []api.Func{{Code: code("push, ret")}, {Code: code("push, dup, ret")}, {Code: code("push, push, add, ret")}}}
+	p := api.Program{Funcs: []api.Func{{Code: progs.Code("push, ret")}, {Code: progs.Code("push, dup, ret")}, {Code: progs.Code("push, push, add, ret")}}}
 	wants := []answer{good(0, 1), good(0, 1, 2), good(0, 1, 2, 1)}
 	for fn, want := range wants {
 		of(t, p, fn, want)
@@ -495,7 +432,7 @@ func TestFunctionsThatThereAreAndAreNot(t *testing.T) {
 }
 
 func TestOnlyTheFunctionThatIsAskedIsTold(t *testing.T) {
-	p := api.Program{Funcs: []api.Func{{Code: code("add")}, {Code: code("push, ret")}, {Code: code("push")}, {Code: code(many(17, "push"))}, {Code: code("jump 3")}}}
+	p := api.Program{Funcs: []api.Func{{Code: progs.Code("add")}, {Code: progs.Code("push, ret")}, {Code: progs.Code("push")}, {Code: progs.Code(many(17, "push"))}, {Code: progs.Code("jump 3")}}}
 	for fn, want := range []answer{bad(0, api.ErrForm), good(0, 1), bad(0, api.ErrEnd), bad(16, api.ErrLong), bad(0, api.ErrEnd)} {
 		of(t, p, fn, want)
 	}
@@ -726,7 +663,7 @@ func around(least, greatest int) []api.Ins {
 func TestAllSmallFunctions(t *testing.T) {
 	met := map[api.Errno]int{}
 	for many := 1; many <= 4; many++ {
-		each(append(code("push, drop, dup, ret"), around(0, many)...), many, func(l []api.Ins) {
+		each(append(progs.Code("push, drop, dup, ret"), around(0, many)...), many, func(l []api.Ins) {
 			met[near(t, api.Program{Funcs: []api.Func{{Code: l}}}, 0).e]++
 		})
 	}
@@ -739,7 +676,7 @@ func TestAllSmallFunctionsWithManyValues(t *testing.T) {
 	met := map[api.Errno]int{}
 	for have := 14; have <= 16; have++ {
 		ahead := pushes(have)
-		each(append(code("push, drop, read 0, ret"), around(have-1, have+3)...), 3, func(l []api.Ins) {
+		each(append(progs.Code("push, drop, read 0, ret"), around(have-1, have+3)...), 3, func(l []api.Ins) {
 			met[near(t, api.Program{Funcs: []api.Func{{Code: append(ahead[:have:have], l...)}}}, 0).e]++
 		})
 	}
@@ -759,7 +696,7 @@ type drawn struct {
 func (d *drawn) below(n int) int { return int(d.row.Next() % uint64(n)) }
 
 // put is instructions in writing, at the end.
-func (d *drawn) put(text string) { d.l = append(d.l, code(text)...) }
+func (d *drawn) put(text string) { d.l = append(d.l, progs.Code(text)...) }
 
 // open is an instruction whose place is not known yet; here is the place to which it goes.
 func (d *drawn) open(o int) func() {
@@ -860,7 +797,7 @@ func (d *drawn) program() (api.Program, int) {
 	d.put("push, ret")
 	var p api.Program
 	for _, n := range d.args {
-		p.Funcs = append(p.Funcs, api.Func{Args: n, Locals: 8, Code: code("push, ret")})
+		p.Funcs = append(p.Funcs, api.Func{Args: n, Locals: 8, Code: progs.Code("push, ret")})
 	}
 	p.Funcs[fn].Code = d.l
 	return p, fn
@@ -949,11 +886,11 @@ func TestDrawnRowsOfInstructions(t *testing.T) {
 	for range 60000 {
 		size := 2 + d.below(9)
 		d.l = pushes([]int{0, 2, 8, 16}[d.below(4)])
-		out := append(code("push, push, drop, dup, add, ret, yield, read 3, join 1 2, call 1"), around(0, len(d.l)+size-1)...)
+		out := append(progs.Code("push, push, drop, dup, add, ret, yield, read 3, join 1 2, call 1"), around(0, len(d.l)+size-1)...)
 		for range size {
 			d.l = append(d.l, out[d.below(len(out))])
 		}
-		met[near(t, with(append(slices.Clone(d.l), code("ret")...)), 0).e]++
+		met[near(t, with(append(slices.Clone(d.l), progs.Code("ret")...)), 0).e]++
 	}
 	if met[api.OK] < 500 || met[api.ErrForm] < 500 || met[api.ErrLong] < 500 {
 		t.Errorf("too few of a kind: %v", met)
@@ -969,7 +906,7 @@ func TestFunctionsWithoutInstructions(t *testing.T) {
 	for _, f := range []api.Func{{}, {Code: []api.Ins{}}, {Args: -1}, {Args: math.MaxInt, Locals: math.MinInt}} {
 		for _, fn := range []int{0, 1} {
 			asked(t, api.Program{Funcs: []api.Func{f, f}}, fn)
-			asked(t, api.Program{Funcs: []api.Func{{Code: code("call 1, call 1, ret")}, f}}, fn)
+			asked(t, api.Program{Funcs: []api.Func{{Code: progs.Code("call 1, call 1, ret")}, f}}, fn)
 		}
 	}
 }
@@ -991,7 +928,7 @@ func TestOperandsOutOfRange(t *testing.T) {
 func TestArgumentsOutOfRange(t *testing.T) {
 	for _, n := range edges {
 		for _, m := range edges {
-			f := api.Func{Args: n, Locals: m, Code: code("call 0, call 1, call 2, add, add, ret")}
+			f := api.Func{Args: n, Locals: m, Code: progs.Code("call 0, call 1, call 2, add, add, ret")}
 			for fn := range 3 {
 				asked(t, api.Program{Funcs: []api.Func{f, f, {Args: m, Locals: n, Code: f.Code}}}, fn)
 			}
@@ -1019,11 +956,11 @@ func TestDrawnProgramsThatMayNotBe(t *testing.T) {
 
 func TestLongFunctions(t *testing.T) {
 	for _, n := range []int{201, 256, 257, 1 << 16} {
-		for _, x := range code("yield, push, jump 0, dup, zero 0, drop") {
+		for _, x := range progs.Code("yield, push, jump 0, dup, zero 0, drop") {
 			depth.Of(api.Program{Funcs: []api.Func{{Code: slices.Repeat([]api.Ins{x}, n)}}}, 0)
 		}
-		depth.Of(api.Program{Funcs: slices.Repeat([]api.Func{{Code: code("call 15, call 16, ret")}}, n)}, n-1)
-		depth.Of(api.Program{Funcs: []api.Func{{Code: slices.Repeat(code("push, zero 0"), n)}}}, 0)
+		depth.Of(api.Program{Funcs: slices.Repeat([]api.Func{{Code: progs.Code("call 15, call 16, ret")}}, n)}, n-1)
+		depth.Of(api.Program{Funcs: []api.Func{{Code: slices.Repeat(progs.Code("push, zero 0"), n)}}}, 0)
 	}
 }
 
@@ -1033,7 +970,7 @@ func TestWhatElseAProgramHasIsNotAsked(t *testing.T) {
 		p := api.Program{
 			Decls: []api.Decl{{Kind: api.Mutex}, {Kind: 99, A: -1, B: 5}},
 			Waits: [][][]api.Need{{}, {{}, {{Kind: api.Lock, Obj: 0}, {Kind: 77, Obj: -1, N: 3}}}},
-			Funcs: []api.Func{{Code: code("wait 0, unlock 0, drop, wait 31, ret")}, {Code: code("waitfor 0")}, {Code: code("wait 1")}},
+			Funcs: []api.Func{{Code: progs.Code("wait 0, unlock 0, drop, wait 31, ret")}, {Code: progs.Code("waitfor 0")}, {Code: progs.Code("wait 1")}},
 		}
 		of(t, p, fn, want)
 	}
@@ -1053,7 +990,7 @@ func TestMost(t *testing.T) {
 		{[]int{math.MinInt}, 0}, {[]int{math.MaxInt}, math.MaxInt}, {[]int{math.MinInt, math.MaxInt}, math.MaxInt}, {[]int{math.MaxInt, math.MinInt}, math.MaxInt},
 		{[]int{math.MinInt, -1}, 0}, {[]int{math.MinInt, 3, math.MinInt + 1}, 3}, {[]int{math.MaxInt - 1, math.MaxInt, 0}, math.MaxInt}, {[]int{1 << 32, 1}, 1 << 32}, {[]int{1<<32 + 1, 1 << 33}, 1 << 33}, {[]int{-1 << 32, 0}, 0},
 	} {
-		l := room(x.l, 1000)
+		l := progs.Room(x.l, 1000)
 		if got := depth.Most(l); got != x.want {
 			t.Errorf("of %v: %d, not %d", x.l, got, x.want)
 		}

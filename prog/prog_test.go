@@ -12,6 +12,7 @@ import (
 	"logjam/decl"
 	"logjam/ins"
 	"logjam/internal/draws"
+	"logjam/internal/progs"
 	"logjam/need"
 	"logjam/op"
 	"logjam/prog"
@@ -225,61 +226,12 @@ func reading(s string) (api.Program, api.Errno) {
 	return p, api.OK
 }
 
-// equal tells whether two programs are the same.
-func equal(p, q api.Program) bool {
-	ways := func(v, w [][]api.Need) bool { return slices.EqualFunc(v, w, slices.Equal) }
-	funcs := func(f, g api.Func) bool {
-		return f.Args == g.Args && f.Locals == g.Locals && slices.Equal(f.Code, g.Code)
-	}
-	return slices.Equal(p.Decls, q.Decls) && slices.EqualFunc(p.Waits, q.Waits, ways) && slices.EqualFunc(p.Funcs, q.Funcs, funcs)
-}
-
-// room is a list with spare room in which something stands.
-func room[T any](l []T, spare T) []T {
-	r := make([]T, len(l), len(l)+2)
-	copy(r, l)
-	r[:len(l)+1][len(l)], r[:len(l)+2][len(l)+1] = spare, spare
-	return r
-}
-
-// roomy is a program of lists with spare room.
-func roomy(p api.Program) api.Program {
-	q := api.Program{Decls: room(p.Decls, api.Decl{Kind: 80, A: 81, B: 82}), Waits: room(p.Waits, [][]api.Need{{{Obj: 70}}}), Funcs: room(p.Funcs, api.Func{Args: 60})}
-	for k := range q.Waits {
-		q.Waits[k] = room(q.Waits[k], []api.Need{{Obj: 71}})
-		for n := range q.Waits[k] {
-			q.Waits[k][n] = room(q.Waits[k][n], api.Need{Kind: 77, Obj: 78, N: 79})
-		}
-	}
-	for k := range q.Funcs {
-		q.Funcs[k].Code = room(q.Funcs[k].Code, api.Ins{Op: 90, A: 91, B: 92})
-	}
-	return q
-}
-
-// whole is a program with all that stands in its spare room.
-func whole(p api.Program) api.Program {
-	q := api.Program{Decls: p.Decls[:cap(p.Decls)]}
-	for _, w := range p.Waits[:cap(p.Waits)] {
-		var ways [][]api.Need
-		for _, way := range w[:cap(w)] {
-			ways = append(ways, way[:cap(way)])
-		}
-		q.Waits = append(q.Waits, ways)
-	}
-	for _, f := range p.Funcs[:cap(p.Funcs)] {
-		f.Code = f.Code[:cap(f.Code)]
-		q.Funcs = append(q.Funcs, f)
-	}
-	return q
-}
-
 // kept fails, if what is done with a program changes it, or its spare room.
 func kept(t *testing.T, p api.Program, do func(p api.Program)) {
 	t.Helper()
-	q := roomy(p)
+	q := progs.Roomy(p)
 	do(q)
-	if !equal(whole(q), whole(roomy(p))) {
+	if !progs.Kept(q, p) {
 		t.Errorf("%v became %v", p, q)
 	}
 }
@@ -320,10 +272,10 @@ func puts(t *testing.T, p api.Program, want string) {
 // gets fails, if Get tells anything but what should be.
 func gets(t *testing.T, s string, want api.Program, err api.Errno) {
 	t.Helper()
-	if p, e := prog.Get(s); !equal(p, want) || e != err {
+	if p, e := prog.Get(s); !progs.Equal(p, want) || e != err {
 		t.Errorf("get of %x: %v, %v, not %v, %v", s, p, e, want, err)
 	}
-	if p, e := reading(s); !equal(p, want) || e != err {
+	if p, e := reading(s); !progs.Equal(p, want) || e != err {
 		t.Errorf("of %x the tests' own reading is %v, %v, not %v, %v", s, p, e, want, err)
 	}
 }
@@ -956,7 +908,7 @@ func TestWhichErrorOfGetComesFirst(t *testing.T) {
 // same fails, if Get of bytes tells anything but what should be, or what it tells is put as other bytes than these. It tells what was wrong.
 func same(t *testing.T, s string) api.Errno {
 	p, e := prog.Get(s)
-	if want, err := reading(s); !equal(p, want) || e != err {
+	if want, err := reading(s); !progs.Equal(p, want) || e != err {
 		t.Fatalf("get of %x: %v, %v, not %v, %v", s, p, e, want, err)
 	}
 	if e != api.OK {
@@ -1233,7 +1185,7 @@ func TestWhatIsGotIsMemoryOfItsOwn(t *testing.T) {
 		clear(one.Decls)
 		clear(one.Waits)
 		clear(one.Funcs)
-		if !equal(two, want) {
+		if !progs.Equal(two, want) {
 			t.Errorf("two programs are one: %v", two)
 		}
 		gets(t, s, want, api.OK)

@@ -1,0 +1,108 @@
+package progs_test
+
+import (
+	"slices"
+	"testing"
+
+	"logjam/api"
+	"logjam/internal/progs"
+)
+
+// some is a program with some of each part.
+func some() api.Program {
+	return api.Program{
+		Decls: []api.Decl{{Kind: api.Mutex}, {Kind: api.Sem, A: 1, B: 2}},
+		Waits: [][][]api.Need{{{{Kind: api.Lock, Obj: 0}}}, {{{Kind: api.Lock, Obj: 0}}, {{Kind: api.Down, Obj: 1, N: 2}}}},
+		Funcs: []api.Func{{Code: progs.Code("wait 1, ret")}, {Args: 1, Locals: 2, Code: progs.Code("push 5, ret")}},
+	}
+}
+
+func TestCode(t *testing.T) {
+	for text, want := range map[string][]api.Ins{
+		"":                         nil,
+		"ret":                      {{Op: api.OpRet}},
+		"push -1, ret":             {{Op: api.OpPush, A: -1}, {Op: api.OpRet}},
+		" cwait 3 4 ,, join 1 2, ": {{Op: api.OpCwait, A: 3, B: 4}, {Op: api.OpJoin, A: 1, B: 2}},
+		"push, add":                {{Op: api.OpPush}, {Op: api.OpAdd}},
+	} {
+		if got := progs.Code(text); !slices.Equal(got, want) {
+			t.Errorf("%q: %v, not %v", text, got, want)
+		}
+	}
+}
+
+func TestWhatIsNoCodePanics(t *testing.T) {
+	for _, text := range []string{"pish 1", "push x", "push 1 2 3", "push 1 ret", "1"} {
+		func() {
+			defer func() {
+				if recover() == nil {
+					t.Errorf("%q is read", text)
+				}
+			}()
+			progs.Code(text)
+		}()
+	}
+}
+
+// changes are what may be done to the lists of a program that has spare room.
+var changes = map[string]func(p *api.Program){
+	"an object":               func(p *api.Program) { p.Decls[1].A++ },
+	"behind the objects":      func(p *api.Program) { p.Decls = append(p.Decls, api.Decl{})[:2] },
+	"far behind the objects":  func(p *api.Program) { p.Decls[:4][3].B++ },
+	"one object less":         func(p *api.Program) { p.Decls = p.Decls[:1] },
+	"one object more":         func(p *api.Program) { p.Decls = p.Decls[:3] },
+	"a need":                  func(p *api.Program) { p.Waits[1][0][0].N++ },
+	"behind the needs":        func(p *api.Program) { p.Waits[1][0][:2][1].N++ },
+	"far behind the needs":    func(p *api.Program) { p.Waits[1][0][:3][2].N++ },
+	"one need more":           func(p *api.Program) { p.Waits[1][0] = p.Waits[1][0][:2] },
+	"a way":                   func(p *api.Program) { p.Waits[1][0] = nil },
+	"behind the ways":         func(p *api.Program) { p.Waits[0][:2][1] = nil },
+	"far behind the ways":     func(p *api.Program) { p.Waits[0][:3][2][0].Kind++ },
+	"one way less":            func(p *api.Program) { p.Waits[1] = p.Waits[1][:1] },
+	"behind the waits":        func(p *api.Program) { p.Waits[:3][2] = nil },
+	"far behind the waits":    func(p *api.Program) { p.Waits[:4][3][0] = nil },
+	"one wait less":           func(p *api.Program) { p.Waits = p.Waits[:1] },
+	"how many arguments":      func(p *api.Program) { p.Funcs[0].Args++ },
+	"how many locals":         func(p *api.Program) { p.Funcs[1].Locals++ },
+	"an instruction":          func(p *api.Program) { p.Funcs[1].Code[0].A++ },
+	"behind the instructions": func(p *api.Program) { p.Funcs[0].Code[:3][2].Op++ },
+	"far behind the code":     func(p *api.Program) { p.Funcs[0].Code[:4][3].B++ },
+	"one instruction less":    func(p *api.Program) { p.Funcs[0].Code = p.Funcs[0].Code[:1] },
+	"behind the functions":    func(p *api.Program) { p.Funcs[:3][2].Locals++ },
+	"far behind them":         func(p *api.Program) { p.Funcs[:4][3] = api.Func{} },
+	"one function less":       func(p *api.Program) { p.Funcs = p.Funcs[:1] },
+}
+
+func TestEachChangeIsSeen(t *testing.T) {
+	for name, change := range changes {
+		q := progs.Roomy(some())
+		if !progs.Equal(q, some()) || !progs.Kept(q, some()) {
+			t.Fatalf("%v is not %v", q, some())
+		}
+		change(&q)
+		if progs.Kept(q, some()) {
+			t.Errorf("a change is not seen: %s", name)
+		}
+	}
+}
+
+func TestRoomyHasMemoryOfItsOwn(t *testing.T) {
+	p := some()
+	for _, change := range changes {
+		q := progs.Roomy(p)
+		change(&q)
+	}
+	if !progs.Equal(p, some()) {
+		t.Errorf("%v became %v", some(), p)
+	}
+}
+
+func TestNilAndEmptyListsAreAlike(t *testing.T) {
+	p := api.Program{Decls: []api.Decl{}, Waits: [][][]api.Need{}, Funcs: []api.Func{}}
+	if !progs.Equal(p, api.Program{}) || !progs.Equal(api.Program{}, p) {
+		t.Error("they are not")
+	}
+	if !progs.Kept(progs.Roomy(p), api.Program{}) || !progs.Kept(progs.Roomy(api.Program{}), p) {
+		t.Error("with spare room they are not")
+	}
+}
