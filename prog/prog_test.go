@@ -3,7 +3,6 @@ package prog_test
 import (
 	"encoding/binary"
 	"math"
-	"reflect"
 	"slices"
 	"strings"
 	"testing"
@@ -963,113 +962,10 @@ func TestAllShortTextsBehindWhatProgramsBeginWith(t *testing.T) {
 	}
 }
 
-// drawnNumber is one of a letter's range.
-func drawnNumber(r *draws.Row, letter byte) int {
-	most := map[byte]uint64{'k': 8, 't': 200, 'f': 16, 'w': 32}
-	if letter == 'n' {
-		return int(int32(r.Next()) >> (r.Next() % 32))
-	}
-	if n := most[letter]; n > 0 {
-		return int(r.Next() % n)
-	}
-	return int(r.Next() % 32)
-}
-
-// drawnIns is an instruction that may be.
-func drawnIns(r *draws.Row) api.Ins {
-	x := api.Ins{Op: int(r.Next() % api.Ops)}
-	form := op.Form(x.Op)
-	if form == "jj" {
-		x.B = 1 + int(r.Next()%4)
-		x.A = 1 + int(r.Next()%uint64(x.B))
-		return x
-	}
-	if len(form) > 0 {
-		x.A = drawnNumber(r, form[0])
-	}
-	if len(form) > 1 {
-		x.B = drawnNumber(r, form[1])
-	}
-	return x
-}
-
-// drawnFunc is a function that may be; most are short.
-func drawnFunc(r *draws.Row) api.Func {
-	f := api.Func{Locals: int(r.Next() % 9)}
-	f.Args = int(r.Next() % uint64(f.Locals+1))
-	for range 1 + r.Next()%200>>(r.Next()%8) {
-		f.Code = append(f.Code, drawnIns(r))
-	}
-	return f
-}
-
-// drawnDecl is an object that may be, if the first one is a mutex.
-func drawnDecl(r *draws.Row) api.Decl {
-	d := api.Decl{Kind: 1 + int(r.Next()%7)}
-	switch d.Kind {
-	case api.Sem:
-		d.B = 1 + int(r.Next()%1000)
-		d.A = int(r.Next() % uint64(d.B+1))
-	case api.Pool:
-		d.A = 1 + int(r.Next()%1000)
-	case api.Cell:
-		d.A = drawnNumber(r, 'n')
-	}
-	return d
-}
-
-// drawnNeed is a need of an object that can be waited for; of another one it is the lock of the first one, a mutex.
-func drawnNeed(r *draws.Row, d []api.Decl) api.Need {
-	n := api.Need{Obj: int(r.Next() % uint64(len(d)))}
-	switch o := d[n.Obj]; o.Kind {
-	case api.Rw:
-		n.Kind = api.Read + int(r.Next()%2)
-	case api.Sem:
-		n.Kind, n.N = api.Down, 1+int(r.Next()%uint64(o.B))
-	case api.Pool:
-		n.Kind, n.N = api.Take, 1+int(r.Next()%uint64(o.A))
-	case api.Mutex:
-		n.Kind = api.Lock
-	default:
-		n = api.Need{Kind: api.Lock}
-	}
-	return n
-}
-
-// drawnWait is a wait of which each way has what may be with the needs ahead of it.
-func drawnWait(r *draws.Row, d []api.Decl) [][]api.Need {
-	var w [][]api.Need
-	for range 1 + r.Next()%4 {
-		l := []api.Need{drawnNeed(r, d)}
-		for range r.Next() % 4 {
-			if more := append(slices.Clone(l), drawnNeed(r, d)); need.Check(d, [][]api.Need{more}) == api.OK {
-				l = more
-			}
-		}
-		w = append(w, l)
-	}
-	return w
-}
-
-// drawnProgram is a program that may be.
-func drawnProgram(r *draws.Row) api.Program {
-	p := api.Program{Decls: []api.Decl{{Kind: api.Mutex}}}
-	for range r.Next() % 32 >> (r.Next() % 6) {
-		p.Decls = append(p.Decls, drawnDecl(r))
-	}
-	for range r.Next() % 33 >> (r.Next() % 6) {
-		p.Waits = append(p.Waits, drawnWait(r, p.Decls))
-	}
-	for range 1 + r.Next()%16>>(r.Next()%5) {
-		p.Funcs = append(p.Funcs, drawnFunc(r))
-	}
-	return p
-}
-
 func TestDrawnProgramsAreGot(t *testing.T) {
 	r := draws.Row(30)
 	for range 3000 {
-		p := drawnProgram(&r)
+		p := progs.Drawn(&r)
 		checks(t, p, api.OK)
 		gets(t, written(p), p, api.OK)
 		refused(t, written(p)+string([]byte{byte(r.Next())}), api.ErrForm)
@@ -1106,7 +1002,7 @@ func TestDrawnTexts(t *testing.T) {
 	met := make([]int, api.ErrNone+1)
 	r := draws.Row(31)
 	for range 20000 {
-		b := []byte(written(drawnProgram(&r)))
+		b := []byte(written(progs.Drawn(&r)))
 		for range 5 {
 			met[same(t, string(marred(&r, slices.Clone(b))))]++
 		}
@@ -1139,30 +1035,6 @@ func TestDrawnBytes(t *testing.T) {
 	}
 }
 
-// memory is where the lists of a program lie, their spare room included.
-func memory(p api.Program) [][2]uintptr {
-	var l [][2]uintptr
-	add := func(list any) {
-		v := reflect.ValueOf(list)
-		if v.Cap() > 0 {
-			l = append(l, [2]uintptr{v.Pointer(), v.Pointer() + uintptr(v.Cap())*v.Type().Elem().Size()})
-		}
-	}
-	add(p.Decls)
-	add(p.Waits)
-	add(p.Funcs)
-	for _, w := range p.Waits {
-		add(w)
-		for _, way := range w {
-			add(way)
-		}
-	}
-	for _, f := range p.Funcs {
-		add(f.Code)
-	}
-	return l
-}
-
 func TestWhatIsGotIsMemoryOfItsOwn(t *testing.T) {
 	long := great()
 	long.Waits = slices.Repeat(long.Waits, 10)
@@ -1171,13 +1043,8 @@ func TestWhatIsGotIsMemoryOfItsOwn(t *testing.T) {
 		s := written(want)
 		one, _ := prog.Get(s)
 		two, _ := prog.Get(s)
-		l := append(memory(one), memory(two)...)
-		for k, a := range l {
-			for _, b := range l[:k] {
-				if a[0] < b[1] && b[0] < a[1] {
-					t.Errorf("two lists of %v lie in one memory", want)
-				}
-			}
+		if !progs.Apart(one, two) {
+			t.Errorf("two lists of %v lie in one memory", want)
 		}
 		for k := range one.Funcs {
 			clear(one.Funcs[k].Code)

@@ -1,4 +1,4 @@
-// Package progs has programs for tests: with instructions in writing, and with spare room in which it is seen whether somebody wrote there.
+// Package progs has programs for tests: with instructions in writing, drawn ones, and such with spare room in which it is seen whether somebody wrote there.
 package progs
 
 import (

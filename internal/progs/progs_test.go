@@ -5,7 +5,9 @@ import (
 	"testing"
 
 	"logjam/api"
+	"logjam/internal/draws"
 	"logjam/internal/progs"
+	"logjam/prog"
 )
 
 // some is a program with some of each part.
@@ -104,5 +106,78 @@ func TestNilAndEmptyListsAreAlike(t *testing.T) {
 	}
 	if !progs.Kept(progs.Roomy(p), api.Program{}) || !progs.Kept(progs.Roomy(api.Program{}), p) {
 		t.Error("with spare room they are not")
+	}
+}
+
+func TestDrawnProgramsMayBe(t *testing.T) {
+	r := draws.Row(1)
+	var objects, waits, functions, instructions []int
+	for range 2000 {
+		p := progs.Drawn(&r)
+		if e := prog.Check(p); e != api.OK {
+			t.Fatalf("%v: %v", p, e)
+		}
+		objects, waits, functions = append(objects, len(p.Decls)), append(waits, len(p.Waits)), append(functions, len(p.Funcs))
+		for _, f := range p.Funcs {
+			instructions = append(instructions, len(f.Code))
+		}
+	}
+	for _, x := range []struct {
+		l           []int
+		least, most int
+	}{{objects, 1, 32}, {waits, 0, 32}, {functions, 1, 16}, {instructions, 1, 200}} {
+		if slices.Min(x.l) != x.least || slices.Max(x.l) != x.most {
+			t.Errorf("from %d to %d, not from %d to %d", slices.Min(x.l), slices.Max(x.l), x.least, x.most)
+		}
+	}
+}
+
+func TestDrawnProgramsAreTheSameEachTime(t *testing.T) {
+	a, b := draws.Row(2), draws.Row(2)
+	for range 100 {
+		if p, q := progs.Drawn(&a), progs.Drawn(&b); !progs.Equal(p, q) || !progs.Apart(p, q) {
+			t.Fatalf("%v, and then %v", p, q)
+		}
+	}
+}
+
+// shares are ways in which two lists of two programs, or of one, may lie in one memory.
+var shares = map[string]func(p, q *api.Program){
+	"objects":                   func(p, q *api.Program) { q.Decls = p.Decls },
+	"the last object":           func(p, q *api.Program) { q.Decls = p.Decls[1:2:2] },
+	"room behind the objects":   func(p, q *api.Program) { p.Decls, q.Decls = p.Decls[:1], p.Decls[2:3] },
+	"waits":                     func(p, q *api.Program) { q.Waits = p.Waits },
+	"ways":                      func(p, q *api.Program) { q.Waits[1] = p.Waits[0] },
+	"ways of one":               func(p, q *api.Program) { q.Waits[1] = q.Waits[0] },
+	"needs":                     func(p, q *api.Program) { q.Waits[0][0] = p.Waits[1][1] },
+	"needs of one":              func(p, q *api.Program) { p.Waits[0][0] = p.Waits[1][0] },
+	"room behind needs":         func(p, q *api.Program) { p.Waits[0][0] = p.Waits[1][0][1:] },
+	"functions":                 func(p, q *api.Program) { q.Funcs = p.Funcs[:1] },
+	"instructions":              func(p, q *api.Program) { q.Funcs[0].Code = p.Funcs[1].Code },
+	"instructions of one":       func(p, q *api.Program) { q.Funcs[0].Code = q.Funcs[1].Code[:1] },
+	"room behind instructions":  func(p, q *api.Program) { q.Funcs[0].Code = q.Funcs[1].Code[2:] },
+	"rooms behind instructions": func(p, q *api.Program) { p.Funcs[0].Code = q.Funcs[1].Code[2:] },
+}
+
+func TestEachMemoryThatIsSharedIsSeen(t *testing.T) {
+	for name, share := range shares {
+		p, q := progs.Roomy(some()), progs.Roomy(some())
+		if !progs.Apart(p, q) {
+			t.Fatalf("%v and %v are not apart", p, q)
+		}
+		share(&p, &q)
+		if progs.Apart(p, q) || progs.Apart(q, p) {
+			t.Errorf("what is shared is not seen: %s", name)
+		}
+	}
+}
+
+func TestListsWithoutMemoryAreApart(t *testing.T) {
+	p := api.Program{Decls: []api.Decl{}, Waits: [][][]api.Need{{}, {}, {{}, {}}, nil}, Funcs: []api.Func{{Code: []api.Ins{}}, {Code: []api.Ins{}}, {}}}
+	if !progs.Apart() || !progs.Apart(p) || !progs.Apart(api.Program{}, p, api.Program{}) {
+		t.Error("they are not")
+	}
+	if progs.Apart(p, p) {
+		t.Error("a program is apart from itself")
 	}
 }
