@@ -10,6 +10,7 @@ import (
 	"logjam/api"
 	"logjam/depth"
 	"logjam/internal/draws"
+	"logjam/internal/lists"
 	"logjam/internal/progs"
 	"logjam/op"
 	"logjam/prog"
@@ -990,7 +991,7 @@ func TestMost(t *testing.T) {
 		{[]int{math.MinInt}, 0}, {[]int{math.MaxInt}, math.MaxInt}, {[]int{math.MinInt, math.MaxInt}, math.MaxInt}, {[]int{math.MaxInt, math.MinInt}, math.MaxInt},
 		{[]int{math.MinInt, -1}, 0}, {[]int{math.MinInt, 3, math.MinInt + 1}, 3}, {[]int{math.MaxInt - 1, math.MaxInt, 0}, math.MaxInt}, {[]int{1 << 32, 1}, 1 << 32}, {[]int{1<<32 + 1, 1 << 33}, 1 << 33}, {[]int{-1 << 32, 0}, 0},
 	} {
-		l := progs.Room(x.l, 1000)
+		l := lists.Room(x.l, 1000)
 		if got := depth.Most(l); got != x.want {
 			t.Errorf("of %v: %d, not %d", x.l, got, x.want)
 		}

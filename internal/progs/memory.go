@@ -1,36 +1,26 @@
 package progs
 
-import "logjam/api"
-
-// seen is elements of lists, by where they lie.
-type seen[T any] map[*T]struct{}
+import (
+	"logjam/api"
+	"logjam/internal/lists"
+)
 
 // Apart tells whether no two lists of these programs, be they of one or of two, lie in one memory, their spare room included.
 func Apart(programs ...api.Program) bool {
-	decls, waits, ways, needs := seen[api.Decl]{}, seen[[][]api.Need]{}, seen[[]api.Need]{}, seen[api.Need]{}
-	funcs, code := seen[api.Func]{}, seen[api.Ins]{}
-	apart := true
+	var decls [][]api.Decl
+	var waits [][][][]api.Need
+	var ways [][][]api.Need
+	var needs [][]api.Need
+	var funcs [][]api.Func
+	var code [][]api.Ins
 	for _, p := range programs {
-		apart = apart && decls.isNew(p.Decls) && waits.isNew(p.Waits) && funcs.isNew(p.Funcs)
+		decls, waits, funcs = append(decls, p.Decls), append(waits, p.Waits), append(funcs, p.Funcs)
 		for _, w := range p.Waits {
-			apart = apart && ways.isNew(w)
-			for _, way := range w {
-				apart = apart && needs.isNew(way)
-			}
+			ways, needs = append(ways, w), append(needs, w...)
 		}
 		for _, f := range p.Funcs {
-			apart = apart && code.isNew(f.Code)
+			code = append(code, f.Code)
 		}
 	}
-	return apart
-}
-
-// isNew tells whether no element of a list was seen ahead. All of them are then.
-func (s seen[T]) isNew(l []T) bool {
-	many := len(s)
-	l = l[:cap(l)]
-	for k := range l {
-		s[&l[k]] = struct{}{}
-	}
-	return len(s) == many+len(l)
+	return lists.Apart(decls...) && lists.Apart(waits...) && lists.Apart(ways...) && lists.Apart(needs...) && lists.Apart(funcs...) && lists.Apart(code...)
 }

@@ -7,6 +7,7 @@ import (
 	"strings"
 
 	"logjam/api"
+	"logjam/internal/lists"
 	"logjam/op"
 )
 
@@ -30,25 +31,17 @@ func Equal(p, q api.Program) bool {
 	return slices.Equal(p.Decls, q.Decls) && slices.EqualFunc(p.Waits, q.Waits, ways) && slices.EqualFunc(p.Funcs, q.Funcs, funcs)
 }
 
-// Room is a list with spare room in which something stands.
-func Room[T any](l []T, spare T) []T {
-	r := make([]T, len(l), len(l)+2)
-	copy(r, l)
-	r[:len(l)+1][len(l)], r[:len(l)+2][len(l)+1] = spare, spare
-	return r
-}
-
 // Roomy is a program of lists with spare room, which shares no memory with the one it was made of.
 func Roomy(p api.Program) api.Program {
-	q := api.Program{Decls: Room(p.Decls, api.Decl{Kind: 80, A: 81, B: 82}), Waits: Room(p.Waits, [][]api.Need{{{Obj: 70}}}), Funcs: Room(p.Funcs, api.Func{Args: 60})}
+	q := api.Program{Decls: lists.Room(p.Decls, api.Decl{Kind: 80, A: 81, B: 82}), Waits: lists.Room(p.Waits, [][]api.Need{{{Obj: 70}}}), Funcs: lists.Room(p.Funcs, api.Func{Args: 60})}
 	for k := range q.Waits {
-		q.Waits[k] = Room(q.Waits[k], []api.Need{{Obj: 71}})
+		q.Waits[k] = lists.Room(q.Waits[k], []api.Need{{Obj: 71}})
 		for n := range q.Waits[k] {
-			q.Waits[k][n] = Room(q.Waits[k][n], api.Need{Kind: 77, Obj: 78, N: 79})
+			q.Waits[k][n] = lists.Room(q.Waits[k][n], api.Need{Kind: 77, Obj: 78, N: 79})
 		}
 	}
 	for k := range q.Funcs {
-		q.Funcs[k].Code = Room(q.Funcs[k].Code, api.Ins{Op: 90, A: 91, B: 92})
+		q.Funcs[k].Code = lists.Room(q.Funcs[k].Code, api.Ins{Op: 90, A: 91, B: 92})
 	}
 	return q
 }
