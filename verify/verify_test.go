@@ -11,7 +11,6 @@ import (
 	"logjam/depth"
 	"logjam/internal/draws"
 	"logjam/internal/progs"
-	"logjam/op"
 	"logjam/prog"
 	"logjam/verify"
 )
@@ -1050,169 +1049,13 @@ func TestUsesOfWhatIsReachedByCallAlone(t *testing.T) {
 }
 
 // drawn draws programs.
-type drawn struct {
-	row draws.Row
-	p   api.Program
-	f   api.Func
-	// starts are places of the function at which no value stands.
-	starts []int
-}
+type drawn struct{ row draws.Row }
 
 // below is a number from 0 to n - 1.
 func (d *drawn) below(n int) int { return int(d.row.Next() % uint64(n)) }
 
-// object is one of these kinds, if there is one.
-func (d *drawn) object(l ...int) (int, bool) {
-	var fit []int
-	for k, o := range d.p.Decls {
-		if slices.Contains(l, o.Kind) {
-			fit = append(fit, k)
-		}
-	}
-	if fit == nil {
-		return 0, false
-	}
-	return fit[d.below(len(fit))], true
-}
-
-// objects are some that may be.
-func (d *drawn) objects() {
-	for range d.below(14) {
-		o := api.Decl{Kind: 1 + d.below(7)}
-		switch o.Kind {
-		case api.Sem:
-			o.B = 1 + d.below(9)
-			o.A = d.below(o.B + 1)
-		case api.Pool:
-			o.A = 1 + d.below(9)
-		case api.Cell:
-			guard, ok := d.object(api.Mutex, api.Rw)
-			if !ok {
-				continue
-			}
-			o.A, o.B = d.below(99), guard
-		}
-		d.p.Decls = append(d.p.Decls, o)
-	}
-}
-
-// way is one that may be, if there is something to wait for.
-func (d *drawn) way() []api.Need {
-	var l []api.Need
-	for range 1 + d.below(4) {
-		obj, ok := d.object(api.Mutex, api.Rw, api.Sem, api.Pool)
-		if !ok || slices.ContainsFunc(l, func(n api.Need) bool { return n.Obj == obj }) {
-			continue
-		}
-		n := api.Need{Obj: obj, N: 1}
-		switch d.p.Decls[obj].Kind {
-		case api.Mutex:
-			n = api.Need{Kind: api.Lock, Obj: obj}
-		case api.Rw:
-			n = api.Need{Kind: api.Read + d.below(2), Obj: obj}
-		case api.Pool:
-			n.Kind = api.Take
-		case api.Sem:
-			n.Kind = api.Down
-			return []api.Need{n}
-		}
-		l = append(l, n)
-	}
-	return l
-}
-
-// waits are some that may be.
-func (d *drawn) waits() {
-	for range d.below(6) {
-		var w [][]api.Need
-		for range 1 + d.below(4) {
-			if way := d.way(); way != nil {
-				w = append(w, way)
-			}
-		}
-		if w != nil {
-			d.p.Waits = append(d.p.Waits, w)
-		}
-	}
-}
-
-// right is a number that may stand where an operation's letter does, if there is one; a jump goes to a place at which no value stands.
-func (d *drawn) right(o int, letter byte, next int) (int, bool) {
-	if l, ok := kinds[letter]; ok {
-		return d.object(l...)
-	}
-	switch letter {
-	case 'n':
-		return d.below(300) - 100, true
-	case 'k':
-		return d.below(max(1, d.f.Locals)), d.f.Locals > 0
-	case 't':
-		l := append(slices.Clone(d.starts), next)
-		return l[d.below(len(l))], true
-	case 'w':
-		return d.below(max(1, len(d.p.Waits))), len(d.p.Waits) > 0
-	case 'f':
-		fn := d.below(len(d.p.Funcs))
-		return fn, o == api.OpCall || d.p.Funcs[fn].Args == 1
-	}
-	return 0, false
-}
-
-// statement is an instruction, what it takes ahead of it, and what it lays gone.
-func (d *drawn) statement() {
-	x := api.Ins{Op: d.below(api.Ops)}
-	form := forms[x.Op]
-	if x.Op == api.OpRet {
-		return
-	}
-	if form == "jj" {
-		x.A = 1 + d.below(4)
-		x.B = x.A + d.below(5-x.A)
-		form = ""
-	}
-	start := len(d.f.Code)
-	for k := range len(form) {
-		takes := op.Pops(x, 0)
-		n, ok := d.right(x.Op, form[k], start+takes+1)
-		if !ok {
-			return
-		}
-		*[]*int{&x.A, &x.B}[k] = n
-	}
-	args := 0
-	if x.Op == api.OpCall {
-		args = d.p.Funcs[x.A].Args
-	}
-	d.starts = append(d.starts, start)
-	d.f.Code = append(d.f.Code, pushes(op.Pops(x, args))...)
-	d.f.Code = append(d.f.Code, x)
-	d.f.Code = append(d.f.Code, progs.Code(many(op.Pushes(x.Op), "drop"))...)
-}
-
 // program is a drawn one that may run.
-func (d *drawn) program() api.Program {
-	d.p = api.Program{}
-	d.objects()
-	d.waits()
-	for fn := range 1 + d.below(6) {
-		f := api.Func{Locals: d.below(9)}
-		if fn > 0 {
-			f.Args = min(d.below(4), f.Locals)
-		}
-		d.p.Funcs = append(d.p.Funcs, f)
-	}
-	for fn := range d.p.Funcs {
-		d.f, d.starts = d.p.Funcs[fn], nil
-		for range d.below(25) {
-			if len(d.f.Code) < 170 {
-				d.statement()
-			}
-		}
-		d.f.Code = append(d.f.Code, progs.Code("push, ret")...)
-		d.p.Funcs[fn] = d.f
-	}
-	return d.p
-}
+func (d *drawn) program() api.Program { return progs.DrawnToRun(&d.row) }
 
 // any is an instruction that may be, whatever it names.
 func (d *drawn) any() api.Ins {

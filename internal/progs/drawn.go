@@ -11,15 +11,21 @@ import (
 
 // Drawn is a program that may be, be it fit to run or not.
 func Drawn(r *draws.Row) api.Program {
+	p := drawnObjects(r)
+	for range 1 + r.Next()%16>>(r.Next()%5) {
+		p.Funcs = append(p.Funcs, drawnFunc(r))
+	}
+	return p
+}
+
+// drawnObjects is a program that has objects, the first of which is a mutex, and waits alone.
+func drawnObjects(r *draws.Row) api.Program {
 	p := api.Program{Decls: []api.Decl{{Kind: api.Mutex}}}
 	for range r.Next() % 32 >> (r.Next() % 6) {
 		p.Decls = append(p.Decls, drawnDecl(r))
 	}
 	for range r.Next() % 33 >> (r.Next() % 6) {
 		p.Waits = append(p.Waits, drawnWait(r, p.Decls))
-	}
-	for range 1 + r.Next()%16>>(r.Next()%5) {
-		p.Funcs = append(p.Funcs, drawnFunc(r))
 	}
 	return p
 }
@@ -41,8 +47,7 @@ func drawnIns(r *draws.Row) api.Ins {
 	x := api.Ins{Op: int(r.Next() % api.Ops)}
 	form := op.Form(x.Op)
 	if form == "jj" {
-		x.B = 1 + int(r.Next()%4)
-		x.A = 1 + int(r.Next()%uint64(x.B))
+		x.A, x.B = drawnCounts(r)
 		return x
 	}
 	if len(form) > 0 {
@@ -52,6 +57,12 @@ func drawnIns(r *draws.Row) api.Ins {
 		x.B = drawnNumber(r, form[1])
 	}
 	return x
+}
+
+// drawnCounts is how many of how many.
+func drawnCounts(r *draws.Row) (int, int) {
+	of := 1 + r.Next()%4
+	return 1 + int(r.Next()%of), int(of)
 }
 
 // drawnFunc is a function that may be; most are short.

@@ -5,9 +5,12 @@ import (
 	"testing"
 
 	"logjam/api"
+	"logjam/depth"
 	"logjam/internal/draws"
 	"logjam/internal/progs"
+	"logjam/op"
 	"logjam/prog"
+	"logjam/verify"
 )
 
 // some is a program with some of each part.
@@ -132,11 +135,45 @@ func TestDrawnProgramsMayBe(t *testing.T) {
 	}
 }
 
+func TestDrawnProgramsToRunMayRun(t *testing.T) {
+	r := draws.Row(3)
+	var ops [api.Ops]int
+	var functions, instructions, most []int
+	back, ahead := 0, 0
+	for range 2000 {
+		p := progs.DrawnToRun(&r)
+		if where, e := verify.Program(p); e != api.OK {
+			t.Fatalf("%v: %v at %v", p, e, where)
+		}
+		functions = append(functions, len(p.Funcs))
+		for fn, f := range p.Funcs {
+			depths, _, _ := depth.Of(p, fn)
+			instructions, most = append(instructions, len(f.Code)), append(most, depth.Most(depths))
+			for at, x := range f.Code {
+				switch {
+				case depths[at] < 0:
+					continue
+				case op.Form(x.Op) == "t" && x.A > at:
+					ahead++
+				case op.Form(x.Op) == "t":
+					back++
+				}
+				ops[x.Op]++
+			}
+		}
+	}
+	if slices.Min(ops[:]) < 300 || slices.Min(functions) > 1 || slices.Max(functions) < 6 || slices.Min(instructions) > 2 || slices.Max(instructions) < 150 || slices.Min(most) > 1 || slices.Max(most) < 16 || back < 500 || ahead < 500 {
+		t.Errorf("too few of a kind: %v, %d functions, %d instructions, %d values, %d back, %d ahead", ops, slices.Max(functions), slices.Max(instructions), slices.Max(most), back, ahead)
+	}
+}
+
 func TestDrawnProgramsAreTheSameEachTime(t *testing.T) {
-	a, b := draws.Row(2), draws.Row(2)
-	for range 100 {
-		if p, q := progs.Drawn(&a), progs.Drawn(&b); !progs.Equal(p, q) || !progs.Apart(p, q) {
-			t.Fatalf("%v, and then %v", p, q)
+	for _, draw := range []func(r *draws.Row) api.Program{progs.Drawn, progs.DrawnToRun} {
+		a, b := draws.Row(2), draws.Row(2)
+		for range 100 {
+			if p, q := draw(&a), draw(&b); !progs.Equal(p, q) || !progs.Apart(p, q) {
+				t.Fatalf("%v, and then %v", p, q)
+			}
 		}
 	}
 }
