@@ -7,17 +7,12 @@ import (
 
 	"logjam/api"
 	"logjam/internal/draws"
+	"logjam/internal/threads"
 	"logjam/rw"
 )
 
-// The threads that tests hand in: numbers that a set of fewer bits would take for others; and what are no threads, of which some would be, if bits were lost.
-var (
-	threads = []int{0, 1, 2, 30, 31, 32, 33, 62, 63}
-	none    = []int{
-		-1, -2, -31, -32, -62, -63, -64, -65, -1 << 31, -1 << 32, math.MinInt + 1, math.MinInt,
-		64, 65, 95, 96, 127, 128, 255, 256, 1<<31 - 1, 1 << 31, 1 << 32, 1<<32 + 1, math.MaxInt - 1, math.MaxInt,
-	}
-)
+// What tests hand in: some threads, and what are none.
+var some, none = threads.Some(), threads.None()
 
 // kind is which of the calls that may change a lock.
 type kind int
@@ -208,9 +203,9 @@ var situations = []situation{
 
 // each goes through all ways into a situation, with any three of the threads: it hands on calls that lead there, how the lock is held behind them, and who is the first of the three.
 func (s situation) each(do func(way []call, ahead model, first int)) {
-	for _, a := range threads {
-		for _, b := range threads {
-			for _, c := range threads {
+	for _, a := range some {
+		for _, b := range some {
+			for _, c := range some {
 				if a == b || b == c || a == c {
 					continue
 				}
@@ -376,9 +371,9 @@ func TestThatItHoldsItIsToldAheadOfOthers(t *testing.T) {
 
 // orders are some orders of all threads.
 func orders() [][]int {
-	var rising, odd []int
-	for by := range 64 {
-		rising = append(rising, by)
+	rising := threads.All()
+	var odd []int
+	for _, by := range rising {
 		odd = append(odd, by*37%64)
 	}
 	falling := slices.Clone(rising)
@@ -386,12 +381,7 @@ func orders() [][]int {
 	l := [][]int{rising, falling, odd}
 	r := draws.Row(17)
 	for range 20 {
-		drawn := slices.Clone(rising)
-		for k := range drawn {
-			i := k + int(r.Next()%uint64(64-k))
-			drawn[k], drawn[i] = drawn[i], drawn[k]
-		}
-		l = append(l, drawn)
+		l = append(l, draws.Shuffled(&r, rising))
 	}
 	return l
 }
@@ -518,7 +508,7 @@ func TestAskingChangesNothing(t *testing.T) {
 func TestNil(t *testing.T) {
 	var l *rw.Rw
 	for range 2 {
-		for _, by := range slices.Concat(threads, none) {
+		for _, by := range slices.Concat(some, none) {
 			for _, k := range kinds {
 				answers(t, l, call{k, by}, api.ErrArg)
 			}
@@ -614,12 +604,12 @@ func TestDrawnCalls(t *testing.T) {
 	tally := map[met]int{}
 	r := draws.Row(1731)
 	for range 2000 {
-		among := threads[:3]
+		among := some[:3]
 		switch r.Next() % 4 {
 		case 0:
-			among = slices.Concat(threads, none)
+			among = slices.Concat(some, none)
 		case 1:
-			among = threads
+			among = some
 		}
 		l, want := &rw.Rw{}, &model{}
 		for range r.Next() % 60 {

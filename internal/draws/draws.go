@@ -12,3 +12,13 @@ func (r *Row) Next() uint64 {
 	z = (z ^ z>>27) * 0x94d049bb133111eb
 	return z ^ z>>31
 }
+
+// Shuffled is a list in an order that is drawn.
+func Shuffled[T any](r *Row, l []T) []T {
+	l = append([]T(nil), l...)
+	for k := range l {
+		i := k + int(r.Next()%uint64(len(l)-k))
+		l[k], l[i] = l[i], l[k]
+	}
+	return l
+}

@@ -1,6 +1,7 @@
 package draws_test
 
 import (
+	"slices"
 	"testing"
 
 	"logjam/internal/draws"
@@ -22,6 +23,32 @@ func TestRowsDiffer(t *testing.T) {
 	for k := range 100 {
 		if a.Next() == b.Next() {
 			t.Errorf("number %d is that of both rows", k)
+		}
+	}
+}
+
+func TestShuffledHasTheSameInEachOrder(t *testing.T) {
+	r, met := draws.Row(3), map[[4]int]int{}
+	for range 2400 {
+		l := []int{1, 2, 3, 4}
+		met[[4]int(draws.Shuffled(&r, l))]++
+		if !slices.Equal(l, []int{1, 2, 3, 4}) {
+			t.Fatalf("the list became %v", l)
+		}
+	}
+	if len(met) != 24 {
+		t.Errorf("%d orders", len(met))
+	}
+	for order, n := range met {
+		sorted := order
+		slices.Sort(sorted[:])
+		if sorted != [4]int{1, 2, 3, 4} || n < 50 {
+			t.Errorf("%v was met %d times", order, n)
+		}
+	}
+	for _, l := range [][]int{nil, {}, {7}} {
+		if got := draws.Shuffled(&r, l); !slices.Equal(got, l) {
+			t.Errorf("%v became %v", l, got)
 		}
 	}
 }
